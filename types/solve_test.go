@@ -292,3 +292,36 @@ func TestP3_4Again(t *testing.T) {
 		}
 	}
 }
+
+// A solver takes pairs as they come, and tells how it stands at any time.
+func TestP3_4Solver(t *testing.T) {
+	s := NewSolver()
+	a, b, c := s.Fresh(0), s.Fresh(1), s.Fresh(0)
+	if a.N == b.N || b.N == c.N || a.N == c.N {
+		t.Error(a, b, c)
+	}
+	steps := []struct {
+		one, two api.Type
+		kind     api.Errno
+		shows    string // what a is then
+	}{
+		{a, a, api.OK, "'a"},
+		{a, list(b), api.OK, "''a list"},
+		{b, tuple(c, tInt), api.OK, "(''a * int) list"},
+		{c, arrow(tInt, tInt), api.ErrEqual, "(''a * int) list"},
+		{c, list(a), api.ErrCircle, "(''a * int) list"},
+		{a, tInt, api.ErrType, "(''a * int) list"},
+		{list(tuple(tBool, tInt)), a, api.OK, "(bool * int) list"},
+	}
+	for _, x := range steps {
+		if kind := s.Same(x.one, x.two); kind != x.kind || Show(s.Replace(a)) != x.shows {
+			t.Errorf("%v = %v: %v %s, want %v %s", x.one, x.two, kind, Show(s.Replace(a)), x.kind, x.shows)
+		}
+	}
+	if top := s.Top(a); top.Kind != api.TyCon || top.Name != "list" {
+		t.Error(top)
+	}
+	if !s.Fits(a) || s.Fits(wide(api.MaxType+1)) || !s.Fits(wide(api.MaxType)) {
+		t.Error("Fits")
+	}
+}

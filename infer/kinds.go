@@ -1,0 +1,59 @@
+package infer
+
+import (
+	"slices"
+
+	"mlcore/api"
+)
+
+func named(name string, eq int, args ...api.Type) api.Type {
+	return api.Type{Kind: api.TyCon, Name: name, Eq: eq, Args: args}
+}
+
+func intType() api.Type    { return named("int", 1) }
+func stringType() api.Type { return named("string", 1) }
+func boolType() api.Type   { return named("bool", 1) }
+func unitType() api.Type   { return named("unit", 1) }
+func exnType() api.Type    { return named("exn", 0) }
+
+func listType(a api.Type) api.Type  { return named("list", 1, a) }
+func refType(a api.Type) api.Type   { return named("ref", 2, a) }
+func arrayType(a api.Type) api.Type { return named("array", 2, a) }
+
+func tupleType(args ...api.Type) api.Type { return api.Type{Kind: api.TyTuple, Args: args} }
+
+func arrow(a, b api.Type) api.Type {
+	return api.Type{Kind: api.TyArrow, Args: []api.Type{a, b}}
+}
+
+// anything is a variable that stands for any type, by its place among those of
+// a name. Its number is below 0: fresh ones have others.
+func anything(place, eq int) api.Type {
+	return api.Type{Kind: api.TyVar, N: -1 - place, Eq: eq}
+}
+
+func isAnything(v api.Type) bool { return v.N < 0 }
+
+// placeOf is the place that anything was made with.
+func placeOf(v api.Type) int { return -1 - v.N }
+
+// eachVariable is a type with another one for each of its variables.
+func eachVariable(t api.Type, other func(api.Type) api.Type) api.Type {
+	if t.Kind == api.TyVar {
+		return other(t)
+	}
+	args := make([]api.Type, len(t.Args))
+	for i, a := range t.Args {
+		args[i] = eachVariable(a, other)
+	}
+	t.Args = args
+	return t
+}
+
+// isOpen asks whether a type has a variable that does not stand for any type.
+func isOpen(t api.Type) bool {
+	if t.Kind == api.TyVar {
+		return !isAnything(t)
+	}
+	return slices.ContainsFunc(t.Args, isOpen)
+}
