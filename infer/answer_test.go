@@ -132,9 +132,13 @@ func TestP4_1Long(t *testing.T) {
 	}
 }
 
-// What is answered hangs on the text alone, though names stand in maps; and the tree is only read.
-func TestP4_1Again(t *testing.T) {
-	for _, p := range programs {
+func TestP4_1Again(t *testing.T) { again(t, programs) }
+
+// again asks twice. What is answered hangs on the text alone, though names stand
+// in maps; and the tree is only read.
+func again(t *testing.T, list []row) {
+	t.Helper()
+	for _, p := range list {
 		n, _ := syntax.Parse(p.text)
 		before := syntax.Print(n)
 		first, f := Check(n)

@@ -4,18 +4,18 @@ import "mlcore/api"
 
 // beginning has the names that are there from the beginning.
 func beginning() scope {
-	s := scope{values: newNames[value](), families: newNames[family]()}
+	s := scope{there: map[key]thing{}}
 	for _, t := range firstTypes() {
-		s.families.declare(t.Name, family{len(t.Args), t})
+		s.declareType(t.Name, family{params: len(t.Args), typ: t})
 	}
 	for _, f := range firstFunctions() {
-		s.values.declare(f.name, value{typ: arrow(f.from, f.to)})
+		s.declareValue(f.name, value{typ: arrow(f.from, f.to)})
 	}
 	for _, name := range []string{"true", "false"} {
-		s.values.declare(name, value{typ: boolType(), con: true})
+		s.declareValue(name, value{typ: boolType(), by: byData})
 	}
 	for _, name := range []string{"Match", "Bind", "Overflow", "Div", "Bounds", "Size"} {
-		s.values.declare(name, value{typ: exnType(), con: true})
+		s.declareValue(name, value{typ: exnType(), by: byException})
 	}
 	return s
 }

@@ -16,6 +16,7 @@ type checker struct {
 	scope
 	finds
 	held map[int]int // the variables that the names outside of a declaration ask for
+	path string      // of the structure that is gone through, with a dot behind it
 	made int         // how many types were made that are like no other
 	left int         // how many nodes may still be gone through
 }
@@ -30,7 +31,7 @@ func newChecker() *checker {
 	}
 }
 
-// program is the types of the names that val and fun declare at the top.
+// program is the types of the values that are declared at the top.
 func (c *checker) program(n api.Node) []api.Typing {
 	if n.Kind != api.Prog {
 		c.fail(api.ErrArg, n)
@@ -90,6 +91,12 @@ func (c *checker) kid(n api.Node, i int) api.Node {
 	return n.Kids[i]
 }
 
+// number is that of a type that is like no other.
+func (c *checker) number() int {
+	c.made++
+	return c.made
+}
+
 // rule finds the type of an expression, a pattern, or a written type.
 type rule = func(api.Node) api.Type
 
@@ -122,6 +129,6 @@ func (c *checker) elements(n api.Node, of rule) api.Type {
 // annotated is the type of what has a type written behind it.
 func (c *checker) annotated(n api.Node, of rule) api.Type {
 	t := of(c.kid(n, 0))
-	c.same(t, c.typ(c.kid(n, 1), nil), n)
+	c.same(t, c.typ(c.kid(n, 1), c.boundBy(nil)), n)
 	return t
 }

@@ -8,24 +8,29 @@ import (
 // datatype is a type that a data makes.
 type datatype struct {
 	family
-	name      string
-	variables bound
-	cons      []api.Node
+	name     string
+	variable rule
+	nodes    []api.Node // its constructors
 }
 
 func (c *checker) data(n api.Node) {
 	list := c.datatypes(n)
 	for _, d := range list {
-		c.families.declare(d.name, d.family)
+		c.declareType(d.name, d.family)
 	}
 	cons := c.constructors(list)
 	eqs := equalities(list, cons)
+	for i, k := range cons {
+		cons[i].typ = compared(k.typ, eqs)
+	}
+	rest := cons
 	for _, d := range list {
 		d.typ = compared(d.typ, eqs)
-		c.families.declare(d.name, d.family)
+		d.cons, rest = rest[:len(d.nodes)], rest[len(d.nodes):]
+		c.declareType(d.name, d.family)
 	}
 	for _, k := range cons {
-		c.values.declare(k.name, value{typ: compared(k.typ, eqs), con: true})
+		c.declareValue(k.name, value{typ: k.typ, by: byData})
 	}
 }
 
@@ -37,32 +42,31 @@ func (c *checker) datatypes(n api.Node) []datatype {
 		if !c.add(b, api.Type{}) {
 			c.fail(api.ErrTwice, b)
 		}
-		variables, cons := c.head(b)
-		list = append(list, datatype{c.newFamily(b), b.Name, variables, cons})
+		variable, nodes := c.head(b)
+		list = append(list, datatype{c.newFamily(b, 1), b.Name, variable, nodes})
 	}
 	return list
 }
 
 // newFamily is one whose types are like no other.
-func (c *checker) newFamily(head api.Node) family {
-	t := named(head.Name, 1)
+func (c *checker) newFamily(head api.Node, eq int) family {
+	t := named(c.path+head.Name, eq)
 	for i, v := range head.Kids[:head.N] {
 		t.Args = append(t.Args, anything(i, quoted(v.Name)))
 	}
-	c.made++
-	t.N = c.made
-	return family{head.N, t}
+	t.N = c.number()
+	return family{params: head.N, typ: t, own: true}
 }
 
 // constructors is those of all types of a data, with their types.
 func (c *checker) constructors(list []datatype) []found {
 	c.forget()
 	for _, d := range list {
-		for _, k := range d.cons {
+		for _, k := range d.nodes {
 			if !c.add(k, api.Type{}) {
 				c.fail(api.ErrTwice, k)
 			}
-			c.inOrder[len(c.inOrder)-1].typ = c.making(k, d.typ, d.variables)
+			c.inOrder[len(c.inOrder)-1].typ = c.making(k, d.typ, d.variable)
 		}
 	}
 	return c.inOrder

@@ -6,7 +6,7 @@ import (
 	"mlcore/api"
 )
 
-// dec goes through a declaration; it tells the names that val and fun declare.
+// dec goes through a declaration; it tells the values of val, fun and structure.
 func (c *checker) dec(n api.Node) []found {
 	c.enter(n)
 	switch n.Kind {
@@ -20,6 +20,13 @@ func (c *checker) dec(n api.Node) []found {
 		c.data(n)
 	case api.DExn:
 		c.exception(n)
+	case api.DStruct:
+		return c.structure(n)
+	case api.DSig:
+		s := c.signature(c.kid(n, 0))
+		c.declare(key{signatureName, n.Name}, thing{structure: s})
+	case api.DOpen:
+		c.open(n)
 	default:
 		c.fail(api.ErrArg, n)
 	}
@@ -96,21 +103,21 @@ func (c *checker) body(f found) {
 }
 
 func (c *checker) abbreviation(n api.Node) {
-	variables, rest := c.head(n)
+	variable, rest := c.head(n)
 	if len(rest) == 0 {
 		c.fail(api.ErrArg, n)
 	}
-	c.families.declare(n.Name, family{n.N, c.typ(rest[0], variables)})
+	c.declareType(n.Name, family{params: n.N, typ: c.typ(rest[0], variable)})
 }
 
 func (c *checker) exception(n api.Node) {
-	c.values.declare(n.Name, value{typ: c.making(n, exnType(), nil), con: true})
+	c.declareValue(n.Name, value{typ: c.making(n, exnType(), c.boundBy(nil)), by: byException})
 }
 
 // making is the type of a constructor that makes a type: by itself, or of an argument.
-func (c *checker) making(n api.Node, t api.Type, variables bound) api.Type {
+func (c *checker) making(n api.Node, t api.Type, variable rule) api.Type {
 	if len(n.Kids) == 0 {
 		return t
 	}
-	return arrow(c.typ(n.Kids[0], variables), t)
+	return arrow(c.typ(n.Kids[0], variable), t)
 }

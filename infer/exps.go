@@ -46,11 +46,11 @@ func (c *checker) exp(n api.Node) api.Type {
 
 // use is the type of a name where it is used.
 func (c *checker) use(n api.Node) api.Type {
-	v, ok := c.values.there[n.Name]
+	t, ok := c.find(valueName, n.Name)
 	if !ok {
 		c.fail(api.ErrName, n)
 	}
-	return c.instance(v.typ)
+	return c.instance(t.value.typ)
 }
 
 func (c *checker) function(n api.Node) api.Type {

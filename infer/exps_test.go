@@ -19,6 +19,11 @@ func TestP4_2Beginning(t *testing.T) {
 		row{"(Div : exn)", "exn"}, row{"([] : int list)", "int list"}, row{"(ref 1 : int ref)", "int ref"},
 		row{"(array (1, 2) : int array)", "int array"},
 	)
+	shows(t,
+		row{"() = ()", "bool"}, row{"1 = 1", "bool"}, row{"\"\" = \"\"", "bool"}, row{"true = true", "bool"}, row{"[] = [()]", "bool"},
+		row{"ref not = ref not", "bool"}, row{"array (1, Div) = array (1, Div)", "bool"},
+	)
+	failsExp(t, api.ErrEqual, "?Div = Div", "?[Div] = []", "?not = not")
 }
 
 func TestP4_1Expressions(t *testing.T) {

@@ -11,10 +11,19 @@ import (
 // hold finds the variables that the names which are there ask for.
 func (c *checker) hold() {
 	clear(c.held)
-	for _, v := range c.values.there {
-		if v.open {
-			c.holdIn(v.typ)
+	for _, t := range c.there {
+		if t.value.open {
+			c.holdIn(t.value.typ)
 		}
+		if t.structure != nil {
+			c.holdEach(t.structure.asks)
+		}
+	}
+}
+
+func (c *checker) holdEach(variables map[int]int) {
+	for n := range variables {
+		c.holdIn(api.Type{Kind: api.TyVar, N: n})
 	}
 }
 
@@ -101,7 +110,7 @@ func (c *checker) settle(list []found, general bool) []found {
 		list[i].typ = settled(x.typ)
 	}
 	for _, x := range list {
-		c.values.declare(x.name, value{typ: x.typ, open: isOpen(x.typ)})
+		c.declareValue(x.name, value{typ: x.typ, open: isOpen(x.typ)})
 	}
 	return list
 }

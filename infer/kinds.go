@@ -39,21 +39,41 @@ func placeOf(v api.Type) int { return -1 - v.N }
 
 // eachVariable is a type with another one for each of its variables.
 func eachVariable(t api.Type, other func(api.Type) api.Type) api.Type {
-	if t.Kind == api.TyVar {
-		return other(t)
-	}
-	args := make([]api.Type, len(t.Args))
-	for i, a := range t.Args {
-		args[i] = eachVariable(a, other)
-	}
-	t.Args = args
+	t, _ = replaced(t, other)
 	return t
 }
 
-// isOpen asks whether a type has a variable that does not stand for any type.
-func isOpen(t api.Type) bool {
+// replaced says, too, whether there was a variable: a type without one is not
+// written anew.
+func replaced(t api.Type, other func(api.Type) api.Type) (api.Type, bool) {
 	if t.Kind == api.TyVar {
-		return !isAnything(t)
+		return other(t), true
 	}
-	return slices.ContainsFunc(t.Args, isOpen)
+	shared := true
+	for i, a := range t.Args {
+		b, ok := replaced(a, other)
+		if ok && shared {
+			t.Args = slices.Clone(t.Args)
+			shared = false
+		}
+		if ok {
+			t.Args[i] = b
+		}
+	}
+	return t, !shared
+}
+
+// isOpen asks whether a type has a variable that does not stand for any type.
+func isOpen(t api.Type) bool { return len(openVariables(t)) > 0 }
+
+// openVariables is those of a type that do not stand for any type, as often as they stand in it.
+func openVariables(t api.Type) []int {
+	var list []int
+	eachVariable(t, func(v api.Type) api.Type {
+		if !isAnything(v) {
+			list = append(list, v.N)
+		}
+		return v
+	})
+	return list
 }

@@ -1,44 +1,43 @@
 package infer
 
-import "mlcore/api"
+import (
+	"strings"
 
-// names are those of one sort that are there.
-type names[T any] struct {
-	there  map[string]T
-	hidden []hiding[T] // of each declaration, in their order
-}
+	"mlcore/api"
+)
 
-// hiding is what a name stood for ahead of a declaration, if it was there.
-type hiding[T any] struct {
+// The sorts of names.
+const (
+	valueName = iota
+	typeName
+	structureName
+	signatureName
+)
+
+// key is a name of a sort.
+type key struct {
+	sort int
 	name string
-	old  T
-	was  bool
 }
 
-func newNames[T any]() names[T] { return names[T]{there: map[string]T{}} }
-
-func (l *names[T]) declare(name string, thing T) {
-	old, was := l.there[name]
-	l.hidden = append(l.hidden, hiding[T]{name, old, was})
-	l.there[name] = thing
+// thing is what a name stands for: the part of it that its sort asks for.
+type thing struct {
+	value     value
+	family    family
+	structure *structure // of a signature: what it asks for
 }
 
-// leave takes back all declarations but the first so many.
-func (l *names[T]) leave(first int) {
-	for last := len(l.hidden) - 1; last >= first; last-- {
-		if h := l.hidden[last]; h.was {
-			l.there[h.name] = h.old
-		} else {
-			delete(l.there, h.name)
-		}
-		l.hidden = l.hidden[:last]
-	}
-}
+// The declarations that make values.
+const (
+	byVal = iota // or fun, or a pattern
+	byData
+	byException
+)
 
 // value is what is known of a value's name.
 type value struct {
 	typ  api.Type
-	con  bool // a constructor, or an exception
+	by   int  // the declaration that made it
 	open bool // whether the type has variables that do not stand for any type
 }
 
@@ -46,19 +45,69 @@ type value struct {
 type family struct {
 	params int
 	typ    api.Type // what stands for any type in it, is taken from the row
+	own    bool     // whether the type was made with the name: in a signature such a type is open
+	cons   []found  // of a datatype: its constructors
 }
 
 // scope has the names that are there.
 type scope struct {
-	values   names[value]
-	families names[family]
+	there  map[key]thing
+	hidden []hiding // of each declaration, in their order
 }
 
-// within takes the values' names back that a part of the program declares.
+// hiding is what a name stood for ahead of a declaration, if it was there.
+type hiding struct {
+	key
+	old thing
+	was bool
+}
+
+func (s *scope) declare(k key, t thing) {
+	old, was := s.there[k]
+	s.hidden = append(s.hidden, hiding{k, old, was})
+	s.there[k] = t
+}
+
+func (s *scope) declareValue(name string, v value) {
+	s.declare(key{valueName, name}, thing{value: v})
+}
+
+func (s *scope) declareType(name string, f family) {
+	s.declare(key{typeName, name}, thing{family: f})
+}
+
+// within takes the names back that a part of the program declares.
 func (s *scope) within(part func()) {
-	first := len(s.values.hidden)
+	first := len(s.hidden)
 	part()
-	s.values.leave(first)
+	for last := len(s.hidden) - 1; last >= first; last-- {
+		if h := s.hidden[last]; h.was {
+			s.there[h.key] = h.old
+		} else {
+			delete(s.there, h.key)
+		}
+		s.hidden = s.hidden[:last]
+	}
+}
+
+// find is what a path of a sort stands for, if all of it is there.
+func (s *scope) find(sort int, path string) (thing, bool) {
+	look := s.thing
+	first, rest, isPath := strings.Cut(path, ".")
+	for isPath {
+		t, ok := look(key{structureName, first})
+		if !ok {
+			return thing{}, false
+		}
+		look = t.structure.thing
+		first, rest, isPath = strings.Cut(rest, ".")
+	}
+	return look(key{sort, first})
+}
+
+func (s *scope) thing(k key) (thing, bool) {
+	t, ok := s.there[k]
+	return t, ok
 }
 
 // found is a name with its type, and the node at which this may be too great.

@@ -46,25 +46,27 @@ func (c *checker) name(n api.Node) api.Type {
 }
 
 func (c *checker) constructor(n api.Node) api.Type {
-	v, ok := c.values.there[n.Name]
-	if !ok || !v.con {
+	v, ok := c.find(valueName, n.Name)
+	if !ok || v.value.by == byVal {
 		c.fail(api.ErrName, n)
 	}
-	takes := v.typ.Kind == api.TyArrow
-	if takes != (len(n.Kids) > 0) {
+	if takes(v.value.typ) != (len(n.Kids) > 0) {
 		c.fail(api.ErrArity, n)
 	}
-	t := c.instance(v.typ)
-	if !takes {
+	t := c.instance(v.value.typ)
+	if len(n.Kids) == 0 {
 		return t
 	}
 	c.is(n.Kids[0], t.Args[0], c.pat)
 	return t.Args[1]
 }
 
+// takes asks whether a constructor of a type takes an argument.
+func takes(t api.Type) bool { return t.Kind == api.TyArrow }
+
 // know declares the names that were found, each with one type.
 func (c *checker) know() {
 	for _, x := range c.inOrder {
-		c.values.declare(x.name, value{typ: x.typ, open: true})
+		c.declareValue(x.name, value{typ: x.typ, open: true})
 	}
 }

@@ -359,12 +359,16 @@ func TestP4_2Random(t *testing.T) {
 	t.Log(good)
 }
 
-// Programs in which tokens were taken from elsewhere, mostly for others of their kind.
-func TestP4_1Changed(t *testing.T) {
+func TestP4_1Changed(t *testing.T) { agreeChanged(t, 6000, programs) }
+
+// agreeChanged holds Check to the chapter's words for programs in which tokens
+// were taken from elsewhere, mostly for others of their kind.
+func agreeChanged(t *testing.T, often int, list []row) {
+	t.Helper()
 	r := rand.New(rand.NewSource(1))
 	kinds := map[api.Errno]int{}
-	for range 6000 {
-		text := programs[r.Intn(len(programs))].text + " " + programs[r.Intn(len(programs))].text
+	for range often {
+		text := list[r.Intn(len(list))].text + " " + list[r.Intn(len(list))].text
 		tokens, f := lexer.Tokens(text)
 		if f.Kind != api.OK {
 			t.Fatal(text, f)

@@ -18,52 +18,74 @@ type slow struct {
 	eq     map[int]bool
 	next   int
 	types  int
+	path   string
 }
 
 type slowValue struct {
 	name string
 	any  []int
 	t    api.Type
-	con  bool
+	by   string // data, exception, or nothing
 }
 
 type slowType struct {
 	name   string
 	params []int
 	t      api.Type
+	open   bool        // in a signature
+	cons   []slowValue // of a data
 }
 
-type slowNames struct {
-	values []slowValue
-	types  []slowType
+// slowEntry is a name: of a value, a type, a structure, or a signature.
+type slowEntry struct {
+	sort, name string
+	value      slowValue
+	typ        slowType
+	in         slowNames // a structure's names, or those that were there at a signature
+	sig        api.Node
 }
 
-func (e slowNames) with(v ...slowValue) slowNames {
-	e.values = append(slices.Clone(e.values), v...)
+// slowNames are searched from their end.
+type slowNames []slowEntry
+
+func (e slowNames) also(more ...slowEntry) slowNames { return append(slices.Clip(e), more...) }
+
+func (e slowNames) with(list ...slowValue) slowNames {
+	for _, v := range list {
+		e = e.also(slowEntry{sort: "value", name: v.name, value: v})
+	}
 	return e
 }
 
-func (e slowNames) withType(v slowType) slowNames {
-	e.types = append(slices.Clone(e.types), v)
-	return e
+func (e slowNames) withType(t slowType) slowNames {
+	return e.also(slowEntry{sort: "type", name: t.name, typ: t})
 }
 
-func (e slowNames) value(name string) (slowValue, bool) {
-	for i := len(e.values) - 1; i >= 0; i-- {
-		if e.values[i].name == name {
-			return e.values[i], true
+func (e slowNames) find(sort, path string) (slowEntry, bool) {
+	first, rest, isPath := strings.Cut(path, ".")
+	if isPath {
+		s, ok := e.find("structure", first)
+		if !ok {
+			return slowEntry{}, false
+		}
+		return s.in.find(sort, rest)
+	}
+	for _, x := range slices.Backward(e) {
+		if x.sort == sort && x.name == path {
+			return x, true
 		}
 	}
-	return slowValue{}, false
+	return slowEntry{}, false
 }
 
-func (e slowNames) typ(name string) (slowType, bool) {
-	for i := len(e.types) - 1; i >= 0; i-- {
-		if e.types[i].name == name {
-			return e.types[i], true
-		}
-	}
-	return slowType{}, false
+func (e slowNames) value(path string) (slowValue, bool) {
+	x, ok := e.find("value", path)
+	return x.value, ok
+}
+
+func (e slowNames) typ(path string) (slowType, bool) {
+	x, ok := e.find("type", path)
+	return x.typ, ok
 }
 
 func slowFail(kind api.Errno, n api.Node) { panic(api.Fault{Kind: kind, At: n.At}) }
@@ -227,9 +249,9 @@ func (s *slow) begin() slowNames {
 	} {
 		e = e.with(slowValue{name: f.name, any: []int{a.N}, t: slowArrow(f.takes, f.gives)})
 	}
-	e = e.with(slowValue{name: "true", t: sBool, con: true}, slowValue{name: "false", t: sBool, con: true})
+	e = e.with(slowValue{name: "true", t: sBool, by: "data"}, slowValue{name: "false", t: sBool, by: "data"})
 	for _, name := range strings.Fields("Match Bind Overflow Div Bounds Size") {
-		e = e.with(slowValue{name: name, t: sExn, con: true})
+		e = e.with(slowValue{name: name, t: sExn, by: "exception"})
 	}
 	return e
 }
@@ -498,8 +520,11 @@ func (s *slow) settle(list []slowTold, general bool, e slowNames) {
 
 // asked is P4.3: does a name that is there have the variable?
 func (s *slow) asked(n int, e slowNames) bool {
-	for _, v := range e.values {
-		if slices.Contains(slowVariables(s.whole(v.t)), n) && !slices.Contains(v.any, n) {
+	for _, x := range e {
+		if x.sort == "structure" && s.asked(n, x.in) {
+			return true
+		}
+		if x.sort == "value" && slices.Contains(slowVariables(s.whole(x.value.t)), n) && !slices.Contains(x.value.any, n) {
 			return true
 		}
 	}
@@ -525,12 +550,23 @@ func (s *slow) dec(n api.Node, e slowNames) (slowNames, []slowTold) {
 		if len(n.Kids) == 1 {
 			t = slowArrow(s.typ(n.Kids[0], e, nil), sExn)
 		}
-		return e.with(slowValue{name: n.Name, t: t, con: true}), nil
+		return e.with(slowValue{name: n.Name, t: t, by: "exception"}), nil
 	case api.DType:
 		bound, params := s.head(n)
-		return e.withType(slowType{n.Name, params, s.typ(n.Kids[n.N], e, bound)}), nil
+		return e.withType(slowType{name: n.Name, params: params, t: s.typ(n.Kids[n.N], e, bound)}), nil
 	case api.DData:
-		return s.data(n, e), nil
+		return s.data(n, e, false), nil
+	case api.DSig:
+		s.signature(n.Kids[0], e)
+		return e.also(slowEntry{sort: "signature", name: n.Name, sig: n.Kids[0], in: e}), nil
+	case api.DOpen:
+		x, ok := e.find("structure", n.Name)
+		if !ok {
+			slowFail(api.ErrName, n)
+		}
+		return e.also(x.in...), nil
+	case api.DStruct:
+		return s.structure(n, e)
 	}
 	for _, x := range list {
 		e = e.with(x.slowValue)
@@ -581,7 +617,7 @@ func (s *slow) head(n api.Node) (map[string]api.Type, []int) {
 	return bound, params
 }
 
-func (s *slow) data(n api.Node, e slowNames) slowNames {
+func (s *slow) data(n api.Node, e slowNames, open bool) slowNames {
 	var heads []slowType
 	var bounds []map[string]api.Type
 	for _, b := range n.Kids {
@@ -592,11 +628,12 @@ func (s *slow) data(n api.Node, e slowNames) slowNames {
 		}
 		bound, params := s.head(b)
 		s.types++
-		t := api.Type{Kind: api.TyCon, Name: b.Name, N: s.types, Eq: 1}
+		t := api.Type{Kind: api.TyCon, Name: s.path + b.Name, N: s.types, Eq: 1}
 		for _, p := range params {
 			t.Args = append(t.Args, api.Type{Kind: api.TyVar, N: p})
 		}
-		heads, bounds = append(heads, slowType{b.Name, params, t}), append(bounds, bound)
+		heads = append(heads, slowType{name: b.Name, params: params, t: t, open: open})
+		bounds = append(bounds, bound)
 	}
 	// With all types compared first; then, while one shows that it is not, again without it.
 	for {
@@ -604,19 +641,23 @@ func (s *slow) data(n api.Node, e slowNames) slowNames {
 		for _, h := range heads {
 			around = around.withType(h)
 		}
-		out, wrong := s.cons(n, around, heads, bounds)
+		cons, wrong := s.cons(n, around, heads, bounds)
 		if wrong < 0 {
-			return out
+			for i, h := range heads {
+				h.cons = cons[i]
+				e = e.withType(h)
+			}
+			return e.with(slices.Concat(cons...)...)
 		}
 		heads[wrong].t.Eq = 0
 	}
 }
 
-// cons declares the constructors; and says which type is not compared though it says so.
-func (s *slow) cons(n api.Node, e slowNames, heads []slowType, bounds []map[string]api.Type) (slowNames, int) {
+// cons is the constructors of each type; and which type is not compared though it says so.
+func (s *slow) cons(n api.Node, e slowNames, heads []slowType, bounds []map[string]api.Type) ([][]slowValue, int) {
 	wrong := -1
 	var seen []string
-	out := e
+	out := make([][]slowValue, len(heads))
 	for i, b := range n.Kids {
 		for _, k := range b.Kids[b.N:] {
 			if slices.Contains(seen, k.Name) {
@@ -635,7 +676,7 @@ func (s *slow) cons(n api.Node, e slowNames, heads []slowType, bounds []map[stri
 				}
 				t = slowArrow(arg, t)
 			}
-			out = out.with(slowValue{k.Name, heads[i].params, t, true})
+			out[i] = append(out[i], slowValue{k.Name, heads[i].params, t, "data"})
 		}
 	}
 	return out, wrong

@@ -6,17 +6,14 @@ import (
 	"mlcore/api"
 )
 
-// bound has the type variables that are bound somewhere, by their names.
-type bound map[string]api.Type
-
-// typ is the type that is written.
-func (c *checker) typ(n api.Node, variables bound) api.Type {
+// typ is the type that is written; another rule says what its variables are.
+func (c *checker) typ(n api.Node, variable rule) api.Type {
 	c.enter(n)
 	var t api.Type
-	of := func(k api.Node) api.Type { return c.typ(k, variables) }
+	of := func(k api.Node) api.Type { return c.typ(k, variable) }
 	switch n.Kind {
 	case api.YVar:
-		return c.variable(n, variables)
+		return variable(n)
 	case api.YCon:
 		t = c.member(n, of)
 	case api.YTuple:
@@ -31,12 +28,26 @@ func (c *checker) typ(n api.Node, variables bound) api.Type {
 	return t
 }
 
-func (c *checker) variable(n api.Node, variables bound) api.Type {
-	t, ok := variables[n.Name]
-	if !ok {
-		c.fail(api.ErrName, n)
+// boundBy is the rule for variables where some are bound, by their names.
+func (c *checker) boundBy(variables map[string]api.Type) rule {
+	return func(n api.Node) api.Type {
+		t, ok := variables[n.Name]
+		if !ok {
+			c.fail(api.ErrName, n)
+		}
+		return t
 	}
-	return t
+}
+
+// anyVariable is the rule where each variable stands for any type.
+func anyVariable() rule {
+	variables := map[string]api.Type{}
+	return func(n api.Node) api.Type {
+		if _, ok := variables[n.Name]; !ok {
+			variables[n.Name] = anything(len(variables), quoted(n.Name))
+		}
+		return variables[n.Name]
+	}
 }
 
 // member is the type that a name makes of the types ahead of it.
@@ -45,29 +56,29 @@ func (c *checker) member(n api.Node, of rule) api.Type {
 	for _, k := range n.Kids {
 		row = append(row, of(k))
 	}
-	f, ok := c.families.there[n.Name]
+	t, ok := c.find(typeName, n.Name)
 	if !ok {
 		c.fail(api.ErrName, n)
 	}
-	if f.params != len(row) {
+	if t.family.params != len(row) {
 		c.fail(api.ErrArity, n)
 	}
-	return eachVariable(f.typ, func(v api.Type) api.Type { return row[placeOf(v)] })
+	return eachVariable(t.family.typ, func(v api.Type) api.Type { return row[placeOf(v)] })
 }
 
 // head binds the variables of a declared type, and gives the kids behind them.
-func (c *checker) head(n api.Node) (bound, []api.Node) {
+func (c *checker) head(n api.Node) (rule, []api.Node) {
 	if n.N < 0 || n.N > len(n.Kids) {
 		c.fail(api.ErrArg, n)
 	}
-	variables := bound{}
+	variables := map[string]api.Type{}
 	for i, v := range n.Kids[:n.N] {
 		if _, ok := variables[v.Name]; ok {
 			c.fail(api.ErrTwice, v)
 		}
 		variables[v.Name] = anything(i, quoted(v.Name))
 	}
-	return variables, n.Kids[n.N:]
+	return c.boundBy(variables), n.Kids[n.N:]
 }
 
 // quoted is 1 for a variable of compared types.
