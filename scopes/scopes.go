@@ -10,10 +10,12 @@ import (
 	"mlcore/api"
 )
 
-// Constructor is one of a datatype: its number there, and whether it takes an argument.
+// Constructor is one of a datatype: its name, its number there and of how many,
+// and whether it takes an argument.
 type Constructor struct {
-	Number int
-	Takes  bool
+	Name       string
+	Number, Of int
+	Takes      bool
 }
 
 // Scope has the names that are there. T is what a value's name stands for.
@@ -97,22 +99,17 @@ func (s *Scope[T]) structureNamed(name string) *structure[T] {
 // Data declares the constructors of a data.
 func (s *Scope[T]) Data(n api.Node) {
 	for _, c := range constructors(n) {
-		s.Declare(c.name, s.means(c.Constructor))
+		s.Declare(c.Name, s.means(c))
 	}
 }
 
-// named is a constructor with its name.
-type named struct {
-	name string
-	Constructor
-}
-
 // constructors is those of a data, in their order.
-func constructors(n api.Node) []named {
-	var list []named
+func constructors(n api.Node) []Constructor {
+	var list []Constructor
 	for _, b := range n.Kids {
-		for i, k := range b.Kids[b.N:] {
-			list = append(list, named{k.Name, Constructor{Number: i, Takes: len(k.Kids) > 0}})
+		cons := b.Kids[b.N:]
+		for i, k := range cons {
+			list = append(list, Constructor{k.Name, i, len(cons), len(k.Kids) > 0})
 		}
 	}
 	return list

@@ -10,7 +10,7 @@ import (
 )
 
 // naming goes through programs. A name stands for the number of its declaration, from 1 on;
-// a constructor for its number in its data, and `of` if it takes an argument.
+// a constructor for its name, its number in its data and of how many, and `of` if it takes an argument.
 type naming struct {
 	*Scope[string]
 	count int
@@ -25,7 +25,7 @@ func tells(t *testing.T, text string) string {
 		t.Fatalf("%s: %v", text, f)
 	}
 	s := &naming{Scope: New(func(c Constructor) string {
-		return "#" + strconv.Itoa(c.Number) + strings.Repeat("of", map[bool]int{true: 1}[c.Takes])
+		return c.Name + strconv.Itoa(c.Number) + "/" + strconv.Itoa(c.Of) + strings.Repeat("of", map[bool]int{true: 1}[c.Takes])
 	})}
 	s.decs(n.Kids)
 	return strings.Join(s.told, " ")
@@ -81,7 +81,7 @@ func holds(t *testing.T, rows ...[2]string) {
 func TestP6_2Find(t *testing.T) {
 	holds(t,
 		[2]string{"val a = 0 val b = 0 val _ = a val _ = b val a = 0 val _ = a", "1 2 3"}, [2]string{"val a = 0 val _ = let val a = 0 in a end val _ = a", "2 1"}, [2]string{"val a = 0 val _ = let val b = 0 in a end val _ = let val a = 0 val a = 0 in a end val _ = a", "1 4 1"},
-		[2]string{"val _ = a val _ = A.b", " "}, [2]string{"data t = A | B of int and u = C of int | D val _ = A val _ = B val _ = C val _ = D", "#0 #1of #0of #1"}, [2]string{"data ('a, 'b) t = A of 'a | B exception B val _ = A val _ = B data u = A val _ = A", "#0of 1 #0"},
+		[2]string{"val _ = a val _ = A.b", " "}, [2]string{"data t = A | B of int and u = C of int | D val _ = A val _ = B val _ = C val _ = D", "A0/2 B1/2of C0/2of D1/2"}, [2]string{"data ('a, 'b) t = A of 'a | B exception B val _ = A val _ = B data u = A val _ = A", "A0/2of 1 A0/1"},
 	)
 }
 
@@ -96,7 +96,7 @@ func TestP6_5Scopes(t *testing.T) {
 	for _, mark := range []string{":", ":>"} {
 		holds(t,
 			[2]string{"val b = 0 structure A " + mark + " sig val a : int end = struct val a = 0 val b = 0 end open A val _ = a val _ = b val _ = A.a", "2 1 2"}, [2]string{"signature S = sig exception E val a : int end structure A = struct val a = 0 exception E exception F end structure B " + mark + " S = A val _ = B.a val _ = B.E val _ = A.F", "1 2 3"},
-			[2]string{"structure A " + mark + " sig data t = B of int | C type u end = struct data t = B of int | C exception B exception C data u = D end val _ = A.B val _ = A.C val _ = A.D", "#0of #1 "}, [2]string{"structure A " + mark + " sig structure B : sig val a : int end end = struct structure B = struct val a = 0 val b = 0 end structure C = B end val b = 0 val _ = A.B.a open A.B val _ = b val _ = A.B.b", "1 3 "},
+			[2]string{"structure A " + mark + " sig data t = B of int | C type u end = struct data t = B of int | C exception B exception C data u = D end val _ = A.B val _ = A.C val _ = A.D", "B0/2of C1/2 "}, [2]string{"structure A " + mark + " sig structure B : sig val a : int end end = struct structure B = struct val a = 0 val b = 0 end structure C = B end val b = 0 val _ = A.B.a open A.B val _ = b val _ = A.B.b", "1 3 "},
 			[2]string{"signature S = sig val a : int end signature T = sig structure A : S end signature S = sig val b : int end structure B " + mark + " T = struct structure A = struct val a = 0 val b = 0 end end val _ = B.A.a val _ = B.A.b", "1 "},
 		)
 	}

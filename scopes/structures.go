@@ -10,7 +10,7 @@ import (
 // another name of the structure may hide the one that is meant.
 type signature[T any] struct {
 	values     []string
-	cons       []named
+	cons       []Constructor
 	structures []asked[T]
 }
 
@@ -67,7 +67,7 @@ func (s *Scope[T]) shown(has *structure[T], sig *signature[T]) *structure[T] {
 		all.values[name] = has.values[name]
 	}
 	for _, c := range sig.cons {
-		all.values[c.name] = s.means(c.Constructor)
+		all.values[c.Name] = s.means(c)
 	}
 	for _, a := range sig.structures {
 		all.structures[a.name] = s.shown(has.structures[a.name], a.sig)

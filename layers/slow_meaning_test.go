@@ -1,4 +1,4 @@
-package meaning
+package layers
 
 import (
 	"slices"
@@ -22,8 +22,9 @@ type slow struct {
 type (
 	slowTuple []any
 	slowCon   struct {
-		name string
-		arg  any // nil: none
+		name   string
+		number int // of a term's value, and of a truth value
+		arg    any // nil: none
 	}
 	slowCell  struct{ cells []any }
 	slowFn    func(any) any
@@ -70,24 +71,41 @@ func (e slowNames) find(sort, path string) slowEntry {
 // slowRun runs a program that has types.
 func slowRun(n api.Node, steps int) (o api.Outcome) {
 	s := &slow{left: steps}
-	defer func() {
-		o.Out, o.Steps = s.out, s.steps
-		switch x := recover().(type) {
-		case nil:
-			o.Kind = api.Done
-		case slowEnd:
-			o.Kind = api.Going
-		case slowExn:
-			o.Kind, o.Name = api.Raised, x.by.name
-		default:
-			panic(x)
-		}
-	}()
+	defer func() { o = s.told(recover()) }()
 	s.decs(n.Kids, s.beginning())
 	return o
 }
 
-func slowTruth(b bool) any { return slowCon{name: strconv.FormatBool(b)} }
+// told is the outcome of a run that has ended with a panic, or without one.
+func (s *slow) told(end any) api.Outcome {
+	o := api.Outcome{Out: s.out, Steps: s.steps}
+	switch x := end.(type) {
+	case nil:
+		o.Kind = api.Done
+	case slowEnd:
+		o.Kind = api.Going
+	case slowExn:
+		o.Kind, o.Name = api.Raised, x.by.name
+	default:
+		panic(x)
+	}
+	return o
+}
+
+func (s *slow) step() {
+	if s.left == 0 {
+		panic(slowEnd{})
+	}
+	s.left--
+	s.steps++
+}
+
+func slowTruth(b bool) any {
+	if b {
+		return slowCon{name: "true", number: 1}
+	}
+	return slowCon{name: "false", number: 0}
+}
 
 func (s *slow) beginning() slowNames {
 	var e slowNames
@@ -219,7 +237,7 @@ func (s *slow) operators(unless func(bool, string)) map[string]slowFn {
 		},
 		"=":  func(v any) any { return slowTruth(!compare(v)) },
 		"<>": func(v any) any { return slowTruth(compare(v)) },
-		"::": func(v any) any { return slowCon{"::", v} },
+		"::": func(v any) any { return slowCon{name: "::", arg: v} },
 		"!":  func(v any) any { return v.(slowTuple)[0].(*slowCell).cells[0] },
 		":=": func(v any) any {
 			v.(slowTuple)[0].(*slowCell).cells[0] = v.(slowTuple)[1]
@@ -239,11 +257,7 @@ func (s *slow) exps(list []api.Node, e slowNames) slowTuple {
 func (s *slow) isTrue(n api.Node, e slowNames) bool { return s.exp(n, e).(slowCon).name == "true" }
 
 func (s *slow) exp(n api.Node, e slowNames) any {
-	if s.left == 0 {
-		panic(slowEnd{})
-	}
-	s.left--
-	s.steps++
+	s.step()
 	switch n.Kind {
 	case api.EInt:
 		return n.N
@@ -257,7 +271,7 @@ func (s *slow) exp(n api.Node, e slowNames) any {
 		l := s.exps(n.Kids, e)
 		var list any = slowCon{name: "[]"}
 		for i := len(l) - 1; i >= 0; i-- {
-			list = slowCon{"::", slowTuple{l[i], list}}
+			list = slowCon{name: "::", arg: slowTuple{l[i], list}}
 		}
 		return list
 	case api.EFn:
@@ -277,7 +291,7 @@ func (s *slow) exp(n api.Node, e slowNames) any {
 	case api.ECase:
 		return s.rules(s.exp(n.Kids[0], e), n.Kids[1:], e, s.match)
 	case api.ETry:
-		v, x := s.try(n.Kids[0], e)
+		v, x := s.try(func() any { return s.exp(n.Kids[0], e) })
 		if x == nil {
 			return v
 		}
@@ -298,7 +312,7 @@ func (s *slow) exp(n api.Node, e slowNames) any {
 	panic("no expression")
 }
 
-func (s *slow) try(n api.Node, e slowNames) (v any, raised *slowExn) {
+func (s *slow) try(thing func() any) (v any, raised *slowExn) {
 	defer func() {
 		switch x := recover().(type) {
 		case nil:
@@ -308,7 +322,7 @@ func (s *slow) try(n api.Node, e slowNames) (v any, raised *slowExn) {
 			panic(x)
 		}
 	}()
-	return s.exp(n, e), nil
+	return thing(), nil
 }
 
 func (s *slow) rules(v any, list []api.Node, e slowNames, otherwise slowExn) any {
@@ -328,11 +342,8 @@ func (s *slow) function(pats []api.Node, body api.Node, e slowNames) slowFn {
 			panic(s.match)
 		case len(pats) == 1:
 			return s.exp(body, inner)
-		case s.left == 0:
-			panic(slowEnd{})
 		}
-		s.left--
-		s.steps++
+		s.step()
 		return s.function(pats[1:], body, inner)
 	}
 }
@@ -449,7 +460,7 @@ func slowData(n api.Node) (list []slowEntry) {
 		for _, k := range b.Kids[b.N:] {
 			var v any = slowCon{name: k.Name}
 			if len(k.Kids) > 0 {
-				v = slowFn(func(arg any) any { return slowCon{k.Name, arg} })
+				v = slowFn(func(arg any) any { return slowCon{name: k.Name, arg: arg} })
 			}
 			list = append(list, slowEntry{sort: "value", name: k.Name, value: v, con: k.Name})
 		}
@@ -464,25 +475,25 @@ func (s *slow) structure(n api.Node, e slowNames) (own slowNames) {
 		_, own = s.decs(k.Kids, e)
 	}
 	if n.N > 0 {
-		return slowShown(own, n.Kids[0], e)
+		return slowShown(own, n.Kids[0], e, slowData)
 	}
 	return own
 }
 
-// slowShown is what a signature shows of a structure's names.
-func slowShown(own slowNames, sig api.Node, e slowNames) (shown slowNames) {
+// slowShown is what a signature shows of a structure's names; constructors are what they are by themselves.
+func slowShown(own slowNames, sig api.Node, e slowNames, constructors func(api.Node) []slowEntry) (shown slowNames) {
 	if sig.Kind == api.GName {
 		s := e.find("signature", sig.Name)
-		return slowShown(own, s.sig, s.in)
+		return slowShown(own, s.sig, s.in, constructors)
 	}
 	for _, k := range sig.Kids {
 		switch k.Kind {
 		case api.GVal, api.DExn:
 			shown = append(shown, own.find("value", k.Name))
 		case api.DData:
-			shown = append(shown, slowData(k)...)
+			shown = append(shown, constructors(k)...)
 		case api.GStruct:
-			in := slowShown(own.find("structure", k.Name).in, k.Kids[0], e)
+			in := slowShown(own.find("structure", k.Name).in, k.Kids[0], e, constructors)
 			shown = append(shown, slowEntry{sort: "structure", name: k.Name, in: in})
 		}
 	}

@@ -1,4 +1,4 @@
-package meaning
+package layers
 
 import (
 	"slices"

@@ -1,4 +1,6 @@
-package meaning
+// Package layers has tests alone: it holds layers against one another, and against
+// second, slow ways to what they answer, over random programs that have types.
+package layers
 
 import (
 	"math/rand"
@@ -182,6 +184,11 @@ func (p *program) constructor(k kind, short bool) (entry, bool) {
 	})
 }
 
+// function is a constructor that is a function of a type.
+func (p *program) function(k kind) (entry, bool) {
+	return p.one(func(e entry) bool { return e.con && e.arg != nil && e.arg.alike(k.of[0]) && e.kind.alike(k.of[1]) })
+}
+
 // leaf is a short expression of a type.
 func (p *program) leaf(k kind) string {
 	if e, ok := p.one(func(e entry) bool { return !e.structure && e.arg == nil && e.kind.alike(k) }); ok && p.Intn(4) > 0 {
@@ -205,6 +212,9 @@ func (p *program) leaf(k kind) string {
 	case "array":
 		return "(array (" + p.pick("0", "1", "2", "2", "3", "3") + ", " + p.leaf(k.of[0]) + "))"
 	case "->":
+		if e, ok := p.function(k); ok && p.Intn(2) == 0 {
+			return e.path
+		}
 		return p.within(func() string { return "(fn " + p.pat(k.of[0], 1) + " => " + p.leaf(k.of[1]) + ")" })
 	}
 	e, ok := p.constructor(k, true)
@@ -223,6 +233,15 @@ func (p *program) tuple(k kind, part func(kind) string) string {
 		l = append(l, part(o))
 	}
 	return "(" + strings.Join(l, ", ") + ")"
+}
+
+// list is one of a few elements.
+func (p *program) list(k kind, part func(kind) string) string {
+	var l []string
+	for range 1 + p.Intn(3) {
+		l = append(l, part(k.of[0]))
+	}
+	return "[" + strings.Join(l, ", ") + "]"
 }
 
 // exp is an expression of a type.
@@ -251,6 +270,9 @@ func (p *program) exp(k kind, depth int) string {
 		return "(" + p.effect(depth-1) + "; " + sub(k) + ")"
 	case 7:
 		from := p.typ(1, false)
+		if e, ok := p.constructor(k, false); ok && e.arg != nil {
+			from = *e.arg
+		}
 		return "(" + sub(made("->", from, k)) + " " + sub(from) + ")"
 	case 8:
 		return p.pick("(raise "+sub(word("exn"))+")", "(!"+sub(made("ref", k))+")", "(!"+sub(made("ref", k))+")")
@@ -317,7 +339,10 @@ func (p *program) make(k kind, depth int) string {
 	case "*":
 		return p.tuple(k, sub)
 	case "list":
-		return p.pick("["+sub(k.of[0])+", "+sub(k.of[0])+"]", "("+sub(k.of[0])+" :: "+sub(k)+")")
+		if p.Intn(2) == 0 {
+			return "(" + sub(k.of[0]) + " :: " + sub(k) + ")"
+		}
+		return p.list(k, sub)
 	case "ref":
 		return "(ref " + sub(k.of[0]) + ")"
 	case "array":
@@ -385,7 +410,7 @@ func (p *program) patIn(k kind, depth int, names *[]entry) string {
 		case 0:
 			return "[]"
 		case 1:
-			return "[" + sub(k.of[0]) + ", " + sub(k.of[0]) + "]"
+			return p.list(k, sub)
 		}
 		return "(" + sub(k.of[0]) + " :: " + sub(k) + ")"
 	}
