@@ -6,7 +6,8 @@ import "mlcore/api"
 
 type slowTerms struct {
 	*slow
-	first slowNames
+	first  slowNames
+	chosen func(x api.Term, i int) // is told which pattern of a term matched; -1: none did
 }
 
 // slowVars is variables with what they have; the last one first.
@@ -28,8 +29,13 @@ func (e *slowVars) find(number int) any {
 }
 
 // slowTerm evaluates a term for so many steps.
-func slowTerm(x api.Term, steps int) (o api.Outcome) {
-	s := &slowTerms{slow: &slow{left: steps}}
+func slowTerm(x api.Term, steps int) api.Outcome {
+	return watchedTerm(x, steps, func(api.Term, int) {})
+}
+
+// watchedTerm evaluates a term, and tells the patterns that are chosen.
+func watchedTerm(x api.Term, steps int, chosen func(x api.Term, i int)) (o api.Outcome) {
+	s := &slowTerms{slow: &slow{left: steps}, chosen: chosen}
 	defer func() { o = s.told(recover()) }()
 	s.first = s.beginning()
 	var e *slowVars
@@ -52,7 +58,7 @@ func (s *slowTerms) term(x api.Term, e *slowVars) any {
 	case api.TBase:
 		return s.first.find("value", x.S).value
 	case api.TFn:
-		return slowFn(func(v any) any { return s.choose(v, x.Pats, x.Kids, e, s.match) })
+		return slowFn(func(v any) any { return s.choose(v, x, x.Kids, e, s.match) })
 	case api.TApp:
 		f := s.term(x.Kids[0], e).(slowFn)
 		return f(s.term(x.Kids[1], e))
@@ -70,17 +76,17 @@ func (s *slowTerms) term(x api.Term, e *slowVars) any {
 		}
 		return s.term(x.Kids[2], e)
 	case api.TCase:
-		return s.choose(s.term(x.Kids[0], e), x.Pats, x.Kids[1:], e, s.match)
+		return s.choose(s.term(x.Kids[0], e), x, x.Kids[1:], e, s.match)
 	case api.TTry:
 		v, raised := s.try(func() any { return s.term(x.Kids[0], e) })
 		if raised == nil {
 			return v
 		}
-		return s.choose(*raised, x.Pats, x.Kids[1:], e, *raised)
+		return s.choose(*raised, x, x.Kids[1:], e, *raised)
 	case api.TRaise:
 		panic(s.term(x.Kids[0], e).(slowExn))
 	case api.TLet:
-		return s.choose(s.term(x.Kids[0], e), x.Pats, x.Kids[1:], e, s.bind)
+		return s.choose(s.term(x.Kids[0], e), x, x.Kids[1:], e, s.bind)
 	case api.TFuns:
 		return s.funs(x, e)
 	case api.TSeq:
@@ -121,12 +127,14 @@ func (s *slowTerms) funs(x api.Term, e *slowVars) any {
 }
 
 // choose goes on with the term of the first pattern that a value matches.
-func (s *slowTerms) choose(v any, pats []api.Pat, bodies []api.Term, e *slowVars, otherwise slowExn) any {
-	for i, p := range pats {
+func (s *slowTerms) choose(v any, x api.Term, bodies []api.Term, e *slowVars, otherwise slowExn) any {
+	for i, p := range x.Pats {
 		if inner, ok := s.matches(p, v, e); ok {
+			s.chosen(x, i)
 			return s.term(bodies[i], inner)
 		}
 	}
+	s.chosen(x, -1)
 	panic(otherwise)
 }
 
