@@ -60,32 +60,41 @@ func TestP7_5Random(t *testing.T) {
 	ends := map[string]int{}
 	for seed := range 2000 {
 		if _, text, _, ok := random(seed); ok {
-			ends[doesTheSame(t, text, 3000)]++
+			ends[doesTheSame(t, text, 3000, coreDoes(t, text))]++
 		}
 	}
 	comesTo(t, ends)
 }
 
-// doesTheSame holds a term to what its text means, and both to the bounds of
-// steps; its answer is how the text ends in so many steps.
-func doesTheSame(t *testing.T, text string, steps int) string {
+// coreDoes evaluates the core term of a text.
+func coreDoes(t *testing.T, text string) func(steps int) api.Outcome {
 	t.Helper()
 	x, f := core.Core(text)
-	o, g := meaning.Run(text, steps)
-	if f != (api.Fault{}) || g != f {
-		t.Fatalf("%s: %v %v", text, f, g)
+	if f != (api.Fault{}) {
+		t.Fatalf("%s: %v", text, f)
+	}
+	return func(steps int) api.Outcome { return slowTerm(x, steps) }
+}
+
+// doesTheSame holds a term to what its text means, and both to the bounds of
+// steps; its answer is how the text ends in so many steps.
+func doesTheSame(t *testing.T, text string, steps int, term func(steps int) api.Outcome) string {
+	t.Helper()
+	o, f := meaning.Run(text, steps)
+	if f != (api.Fault{}) {
+		t.Fatalf("%s: %v", text, f)
 	}
 	if o.Kind != api.Going {
-		endsAlike(t, text, o, slowTerm(x, bound(text, o.Steps)))
+		endsAlike(t, text, o, term(bound(text, o.Steps)))
 		return ending(o)
 	}
-	of := slowTerm(x, steps)
+	of := term(steps)
 	if of.Kind != api.Going && bound(text, of.Steps) <= api.MaxFuel {
 		o, _ = meaning.Run(text, bound(text, of.Steps))
 		endsAlike(t, text, o, of)
 	}
-	if !strings.HasPrefix(o.Out, of.Out) && !strings.HasPrefix(of.Out, o.Out) {
-		t.Fatalf("%s: prints %q, its term %q", text, o.Out, of.Out)
+	if of.Kind == api.Wrong || !strings.HasPrefix(o.Out, of.Out) && !strings.HasPrefix(of.Out, o.Out) {
+		t.Fatalf("%s: prints %q, its term %v", text, o.Out, of)
 	}
 	return ending(o)
 }
@@ -103,10 +112,10 @@ func endsAlike(t *testing.T, text string, o, of api.Outcome) {
 	}
 }
 
-// Terms do what programs mean that are known to end, in each way.
-func TestP7_5Programs(t *testing.T) {
+// endings is programs that are known to end, in each way.
+func endings() []knownEnd {
 	const tell = "fun p n = (print (str n); n) fun q n x = (print (str n); x) "
-	for _, r := range []struct{ text, end, out string }{
+	return []knownEnd{
 		{"", "Done", ""},
 		{"fun fact n = if n = 0 then 1 else n * fact (n - 1) val _ = print (str (fact 10))", "Done", "3628800"},
 		{"fun fact n = if n = 0 then 1 else n * fact (n - 1) val _ = print (str (fact 13))", "Overflow", ""},
@@ -141,26 +150,43 @@ func TestP7_5Programs(t *testing.T) {
 		{"val (x as (y, z :: _)) = (1, [2, 3]) val _ = case x of (a, [b, c]) => print (str (a + b * 10 + c * 100 + y + z)) end", "Done", "324"},
 		{"fun loop n = loop (n + 1) val _ = loop 0", "Going", ""},
 		{"val _ = print \"a\" fun f x = (f x; 1) val _ = f 1", "Going", "a"},
-	} {
-		o, _ := meaning.Run(r.text, 3000)
-		if end := doesTheSame(t, r.text, 3000); end != r.end || o.Out != r.out {
-			t.Errorf("%s: %s %q, want %s %q", r.text, end, o.Out, r.end, r.out)
-		}
 	}
 }
 
-// The bounds of steps hold where a text takes steps and its term none, and the other way round.
-func TestP7_5Steps(t *testing.T) {
+type knownEnd struct{ text, end, out string }
+
+// Terms do what programs mean that are known to end.
+func TestP7_5Programs(t *testing.T) {
+	for _, r := range endings() {
+		r.holds(t, coreDoes(t, r.text))
+	}
+}
+
+func (r knownEnd) holds(t *testing.T, term func(steps int) api.Outcome) {
+	t.Helper()
+	o, _ := meaning.Run(r.text, 10000)
+	if end := doesTheSame(t, r.text, 10000, term); end != r.end || o.Out != r.out {
+		t.Errorf("%s: %s %q, want %s %q", r.text, end, o.Out, r.end, r.out)
+	}
+}
+
+// uneven is programs that take steps where their terms take none, and the other way round.
+func uneven() []string {
 	loop := func(body string) string {
 		return "fun go n x = if n = 0 then x else go (n - 1) (" + body + ") val _ = go 20 1"
 	}
-	for _, text := range []string{
+	return []string{
 		loop("x"), loop(strings.Repeat("let in ", 50) + "x" + strings.Repeat(" end", 50)), loop(strings.Repeat("(", 50) + "x" + strings.Repeat(" : int)", 50)),
 		loop("let " + strings.Repeat("exception E ", 200) + "in x end"), loop("let " + strings.Repeat("fun f x = x ", 200) + "in x end"), loop("let " + strings.Repeat("val y = x ", 200) + "in x end"),
 		loop("(" + strings.Repeat("[];", 400) + "x)"), loop("(fn [] => x) []"), loop("(fn f => f x) (fn y => y)"),
 		strings.Repeat("exception E ", 300), strings.Repeat("fun f x = x ", 300), "structure A = struct " + strings.Repeat("exception E ", 200) + "end", "val x = " + strings.Repeat("(", 50) + "1" + strings.Repeat(" : int)", 50),
-	} {
-		if end := doesTheSame(t, text, api.MaxFuel); end != "Done" {
+	}
+}
+
+// The bounds of steps hold where a text and its term take them at different places.
+func TestP7_5Steps(t *testing.T) {
+	for _, text := range uneven() {
+		if end := doesTheSame(t, text, api.MaxFuel, coreDoes(t, text)); end != "Done" {
 			t.Errorf("%.60s: %s", text, end)
 		}
 	}

@@ -19,13 +19,20 @@ type slowVars struct {
 
 func (e *slowVars) with(number int, v any) *slowVars { return &slowVars{number, v, e} }
 
-func (e *slowVars) find(number int) any {
-	for ; e != nil; e = e.next {
-		if e.number == number {
-			return e.value
-		}
+func (e *slowVars) entry(number int) *slowVars {
+	for e != nil && e.number != number {
+		e = e.next
 	}
-	panic("no variable")
+	return e
+}
+
+func (e *slowVars) has(number int) bool { return e.entry(number) != nil }
+
+func (e *slowVars) find(number int) any {
+	if !e.has(number) {
+		panic("no variable")
+	}
+	return e.entry(number).value
 }
 
 // slowTerm evaluates a term for so many steps.
