@@ -54,31 +54,37 @@ func (f plainForm) fault(x api.Term) string {
 	return ""
 }
 
+// onlyHas looks for fields that a term has, but may not have: of N, Of, S (the words
+// that it may be, or any), Pats and Ns.
+func onlyHas(x api.Term, n, of bool, s string, pats, ns bool) string {
+	switch {
+	case !n && x.N != 0:
+		return "N"
+	case !of && x.Of != 0:
+		return "Of"
+	case s == "" && x.S != "":
+		return "S"
+	case s != "" && s != "any" && !slices.Contains(strings.Fields(s), x.S):
+		return "S " + x.S
+	case !pats && len(x.Pats) > 0:
+		return "Pats"
+	case !ns && len(x.Ns) > 0:
+		return "Ns"
+	}
+	return ""
+}
+
+// and is what is wrong with a term, or that something else is.
+func and(ok bool, s string) string {
+	if s == "" && !ok {
+		return "a field that may not be"
+	}
+	return s
+}
+
 // fields looks at what a term has beside its Kids.
 func (f plainForm) fields(x api.Term) string {
-	has := func(n, of bool, s string, pats, ns bool) string {
-		switch {
-		case !n && x.N != 0:
-			return "N"
-		case !of && x.Of != 0:
-			return "Of"
-		case s == "" && x.S != "":
-			return "S"
-		case s != "" && s != "any" && !slices.Contains(strings.Fields(s), x.S):
-			return "S " + x.S
-		case !pats && len(x.Pats) > 0 || pats && !oneVar(x.Pats):
-			return "Pats"
-		case !ns && len(x.Ns) > 0 || slices.ContainsFunc(x.Ns, func(n int) bool { return n <= 0 }):
-			return "Ns"
-		}
-		return ""
-	}
-	and := func(ok bool, s string) string {
-		if s == "" && !ok {
-			return "a field that may not be"
-		}
-		return s
-	}
+	has := func(n, of bool, s string, pats, ns bool) string { return onlyHas(x, n, of, s, pats, ns) }
 	switch x.Op {
 	case api.TInt:
 		return has(true, false, "", false, false)
@@ -89,7 +95,7 @@ func (f plainForm) fields(x api.Term) string {
 	case api.TVar:
 		return and(f.vars.has(x.N) || -6 <= x.N && x.N <= -1, has(true, false, "", false, false))
 	case api.TFn, api.TLet, api.TTry:
-		return has(false, false, "", true, false)
+		return and(oneVar(x.Pats), has(false, false, "", true, false))
 	case api.TOp:
 		signs := "+ - * / % < <= > >= = <> ^ :="
 		if len(x.Kids) == 1 {
@@ -99,7 +105,8 @@ func (f plainForm) fields(x api.Term) string {
 	case api.TFuns:
 		last := len(x.Kids) - 1
 		functions := !slices.ContainsFunc(x.Kids[:last], func(k api.Term) bool { return k.Op != api.TFn })
-		return and(functions && len(x.Ns) == last, has(false, false, "", false, true))
+		bound := !slices.ContainsFunc(x.Ns, func(n int) bool { return n <= 0 })
+		return and(functions && bound && len(x.Ns) == last, has(false, false, "", false, true))
 	case api.TNewExn:
 		return and(x.N > 0 && (x.Of == 0 || x.Of == 1), has(true, true, "any", false, false))
 	case api.TIs:

@@ -26,18 +26,24 @@ type slowPlains struct {
 
 // slowPlain evaluates a plain term for so many steps.
 func slowPlain(x api.Term, steps int) (o api.Outcome) {
-	s := &slowPlains{slow: &slow{left: steps}}
-	defer func() {
-		end := recover()
-		if w, wrong := end.(plainWrong); wrong {
-			o = api.Outcome{Kind: api.Wrong, Name: string(w), Out: s.out, Steps: s.steps}
-			return
-		}
-		o = s.told(end)
-	}()
-	s.first = s.beginning()
+	s := newSlowPlains(steps)
+	defer func() { o = s.told(recover()) }()
 	s.term(x, s.exceptions())
 	return o
+}
+
+func newSlowPlains(steps int) *slowPlains {
+	s := &slowPlains{slow: &slow{left: steps}}
+	s.first = s.beginning()
+	return s
+}
+
+// told is an outcome as the second meaning tells it, or Wrong.
+func (s *slowPlains) told(end any) api.Outcome {
+	if w, wrong := end.(plainWrong); wrong {
+		return api.Outcome{Kind: api.Wrong, Name: string(w), Out: s.out, Steps: s.steps}
+	}
+	return s.slow.told(end)
 }
 
 // exceptions is the variables that are there from the beginning.
@@ -62,31 +68,10 @@ func (s *slowPlains) term(x api.Term, e *slowVars) any {
 	kid := func(i int) any { return s.term(x.Kids[i], e) }
 	with := func(i int, v any) any { return s.term(x.Kids[i], e.with(x.Pats[0].N, v)) }
 	switch x.Op {
-	case api.TInt:
-		return x.N
-	case api.TStr:
-		return x.S
-	case api.TBase:
-		return s.base(x.S)
 	case api.TVar:
 		return e.find(x.N)
 	case api.TFn:
 		return slowFn(func(v any) any { return with(0, v) })
-	case api.TApp:
-		f := as[slowFn](kid(0))
-		return f(kid(1))
-	case api.TIf:
-		if as[int](kid(0)) == 1 {
-			return kid(1)
-		}
-		return kid(2)
-	case api.TOp:
-		return s.operator(x.S, s.terms(x.Kids, e))
-	case api.TSeq:
-		l := s.terms(x.Kids, e)
-		return l[len(l)-1]
-	case api.TRaise:
-		panic(raisedBy(as[*plainBlock](kid(0))))
 	case api.TLet:
 		return with(1, kid(0))
 	case api.TTry:
@@ -100,7 +85,44 @@ func (s *slowPlains) term(x api.Term, e *slowVars) any {
 	case api.TNewExn:
 		return s.term(x.Kids[0], e.with(x.N, &slowExnID{x.S}))
 	}
+	return s.shared(x, kid)
+}
+
+// shared evaluates a term of an op that binds nothing: flat programs have it, too.
+func (s *slowPlains) shared(x api.Term, kid func(int) any) any {
+	switch x.Op {
+	case api.TInt:
+		return x.N
+	case api.TStr:
+		return x.S
+	case api.TBase:
+		return s.base(x.S)
+	case api.TApp:
+		f := as[slowFn](kid(0))
+		return f(kid(1))
+	case api.TIf:
+		if as[int](kid(0)) == 1 {
+			return kid(1)
+		}
+		return kid(2)
+	case api.TOp:
+		return s.operator(x.S, each(x.Kids, kid))
+	case api.TSeq:
+		l := each(x.Kids, kid)
+		return l[len(l)-1]
+	case api.TRaise:
+		panic(raisedBy(as[*plainBlock](kid(0))))
+	}
 	return s.blocks(x, kid)
+}
+
+// each is the values of all kids, from the left.
+func each(kids []api.Term, kid func(int) any) slowTuple {
+	all := slowTuple{}
+	for i := range kids {
+		all = append(all, kid(i))
+	}
+	return all
 }
 
 // blocks evaluates a term of an op that plain terms alone have.
@@ -119,11 +141,7 @@ func (s *slowPlains) blocks(x api.Term, kid func(int) any) any {
 		}
 		return b.fields[x.N]
 	case api.TBlock:
-		b := &plainBlock{tag: x.N}
-		for i := range x.Kids {
-			b.fields = append(b.fields, kid(i))
-		}
-		return b
+		return &plainBlock{x.N, each(x.Kids, kid)}
 	case api.TSame:
 		return plainTruth(same(kid(0), kid(1)))
 	case api.TCatch:
@@ -135,14 +153,6 @@ func (s *slowPlains) blocks(x api.Term, kid func(int) any) any {
 		panic(plainFail{})
 	}
 	panic(plainWrong(fmt.Sprint("no op ", x.Op)))
-}
-
-func (s *slowPlains) terms(list []api.Term, e *slowVars) slowTuple {
-	all := slowTuple{}
-	for _, x := range list {
-		all = append(all, s.term(x, e))
-	}
-	return all
 }
 
 func (s *slowPlains) funs(x api.Term, e *slowVars) any {
