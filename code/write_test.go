@@ -2,6 +2,7 @@ package code
 
 import (
 	"math"
+	"slices"
 	"strings"
 	"testing"
 
@@ -106,21 +107,47 @@ func TestP12_1Many(t *testing.T) {
 	}
 }
 
-// long is a code of n bytes, for n from 100 on.
-func long(n int) api.Code {
-	c := codeOf()
-	n -= 7
-	for n > 300000 {
-		c.Funs = append(c.Funs, body(times(50000, in(api.InInt, -7))...))
-		n -= 6 + 5*50000
+// filled is a code of n bytes, from 1000 on, with these texts and as many instructions x, of so many bytes, as go into it.
+func filled(n int, texts []string, x api.Ins, width int) api.Code {
+	c := api.Code{Texts: texts}
+	n -= len("ML1") + 2 + 2
+	for _, s := range texts {
+		n -= 1 + len(s)
 	}
-	c.Funs = append(c.Funs, body(times((n-6)/5, in(api.InInt, 3))...))
-	c.Funs[len(c.Funs)-1].Ins = append(c.Funs[len(c.Funs)-1].Ins, times((n-6)%5, in(api.InArg))...)
+	for n > 6+65000*width+6 {
+		c.Funs = append(c.Funs, body(times(65000, x)...))
+		n -= 6 + 65000*width
+	}
+	n -= 6
+	last := body(times(n/width, x)...)
+	last.Ins = append(last.Ins, times(n%width, in(api.InArg))...)
+	c.Funs = append(c.Funs, last)
 	return c
 }
 
+// long is a code of n bytes.
+func long(n int) api.Code { return filled(n, nil, in(api.InInt, -7), 5) }
+
+// The bytes are counted as they are written, whatever they are of.
+func TestP12_1Edge(t *testing.T) {
+	for op := range api.Inss {
+		twos, hasNumber := operandsOf(op)
+		width := 1 + 2*twos
+		if hasNumber {
+			width = 5
+		}
+		texts := slices.Repeat([]string{"", "abc", strings.Repeat("x", api.MaxStr)}, 500*op)
+		if s, e := Encode(filled(api.MaxCode, texts, in(op), width)); e != api.OK || len(s) != api.MaxCode {
+			t.Errorf("%d: %d bytes, %v", op, len(s), e)
+		}
+		if s, e := Encode(filled(api.MaxCode+1, texts, in(op), width)); s != "" || e != api.ErrLong {
+			t.Errorf("%d: %d bytes, %v", op, len(s), e)
+		}
+	}
+}
+
 func TestP12_1Long(t *testing.T) {
-	for _, n := range []int{100, 1000, 1003, api.MaxCode - 1, api.MaxCode} {
+	for _, n := range []int{1000, 1003, api.MaxCode - 1, api.MaxCode} {
 		if s, e := Encode(long(n)); e != api.OK || len(s) != n {
 			t.Errorf("%d bytes: %d, %v", n, len(s), e)
 		}
