@@ -29,7 +29,7 @@ func flows(c api.Code, list []api.Ins) (int, bool) {
 
 // step goes through an instruction.
 func (w *flow) step(i int, in api.Ins) bool {
-	s, takes := w.ahead[i], w.takes(in)
+	s, takes := w.ahead[i], Takes(w.code, in)
 	if !s.known || s.values < takes {
 		return false
 	}
@@ -55,13 +55,13 @@ func (w *flow) step(i int, in api.Ins) bool {
 	return w.reach(i+1, s)
 }
 
-// takes is how many values an instruction takes.
-func (w *flow) takes(in api.Ins) int {
+// Takes is how many values an instruction takes; its operands are as they must be in its code.
+func Takes(c api.Code, in api.Ins) int {
 	switch in.Op {
 	case api.InBlock:
 		return in.B
 	case api.InMake:
-		return w.code.Funs[in.A].Free
+		return c.Funs[in.A].Free
 	case api.InSign:
 		if signs[in.A] == "!" || signs[in.A] == "~" {
 			return 1
