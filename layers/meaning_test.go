@@ -35,7 +35,9 @@ func random(seed int) (p *program, text string, n api.Node, ok bool) {
 	return p, text, n, f.Kind == api.OK
 }
 
-func ending(o api.Outcome) string { return []string{"Going", "Done", o.Name}[o.Kind] }
+func ending(o api.Outcome) string {
+	return []string{"Going", "Done", o.Name, "Memory", "Wrong"}[o.Kind]
+}
 
 // comesTo holds random programs to end in every way.
 func comesTo(t *testing.T, ends map[string]int) {

@@ -15,6 +15,7 @@ import (
 
 type slow struct {
 	left, steps int
+	waits, most int // how much waits for one another (P15.6), now and at most
 	out         string
 	match, bind slowExn
 }
@@ -69,11 +70,17 @@ func (e slowNames) find(sort, path string) slowEntry {
 }
 
 // slowRun runs a program that has types.
-func slowRun(n api.Node, steps int) (o api.Outcome) {
-	s := &slow{left: steps}
-	defer func() { o = s.told(recover()) }()
-	s.decs(n.Kids, s.beginning())
+func slowRun(n api.Node, steps int) api.Outcome {
+	o, _ := waitedRun(n, steps)
 	return o
+}
+
+// waitedRun also tells how much waited for one another at most.
+func waitedRun(n api.Node, steps int) (o api.Outcome, most int) {
+	s := &slow{left: steps}
+	defer func() { o, most = s.told(recover()), s.most }()
+	s.decs(n.Kids, s.beginning())
+	return o, most
 }
 
 // told is the outcome of a run that has ended with a panic, or without one.
@@ -249,12 +256,25 @@ func (s *slow) operators(unless func(bool, string)) map[string]slowFn {
 func (s *slow) exps(list []api.Node, e slowNames) slowTuple {
 	all := slowTuple{}
 	for _, n := range list {
-		all = append(all, s.exp(n, e))
+		all = append(all, s.kid(n, e))
 	}
 	return all
 }
 
-func (s *slow) isTrue(n api.Node, e slowNames) bool { return s.exp(n, e).(slowCon).name == "true" }
+// kid is the value of an expression that something waits for.
+func (s *slow) kid(n api.Node, e slowNames) (v any) {
+	s.waiting(func() { v = s.exp(n, e) })
+	return v
+}
+
+func (s *slow) waiting(thing func()) {
+	s.waits++
+	s.most = max(s.most, s.waits)
+	thing()
+	s.waits--
+}
+
+func slowIsTrue(v any) bool { return v.(slowCon).name == "true" }
 
 func (s *slow) exp(n api.Node, e slowNames) any {
 	s.step()
@@ -277,33 +297,35 @@ func (s *slow) exp(n api.Node, e slowNames) any {
 	case api.EFn:
 		return s.function(n.Kids[:1], n.Kids[1], e)
 	case api.EApp:
-		f := s.exp(n.Kids[0], e).(slowFn)
-		return f(s.exp(n.Kids[1], e))
+		f := s.kid(n.Kids[0], e).(slowFn)
+		return f(s.kid(n.Kids[1], e))
 	case api.EIf:
-		if s.isTrue(n.Kids[0], e) {
+		if slowIsTrue(s.kid(n.Kids[0], e)) {
 			return s.exp(n.Kids[1], e)
 		}
 		return s.exp(n.Kids[2], e)
 	case api.EAnd:
-		return slowTruth(s.isTrue(n.Kids[0], e) && s.isTrue(n.Kids[1], e))
+		return slowTruth(slowIsTrue(s.kid(n.Kids[0], e)) && slowIsTrue(s.exp(n.Kids[1], e)))
 	case api.EOr:
-		return slowTruth(s.isTrue(n.Kids[0], e) || s.isTrue(n.Kids[1], e))
+		return slowTruth(slowIsTrue(s.kid(n.Kids[0], e)) || slowIsTrue(s.exp(n.Kids[1], e)))
 	case api.ECase:
-		return s.rules(s.exp(n.Kids[0], e), n.Kids[1:], e, s.match)
+		return s.rules(s.kid(n.Kids[0], e), n.Kids[1:], e, s.match)
 	case api.ETry:
-		v, x := s.try(func() any { return s.exp(n.Kids[0], e) })
+		v, x := s.try(func() any { return s.kid(n.Kids[0], e) })
 		if x == nil {
 			return v
 		}
 		return s.rules(*x, n.Kids[1:], e, *x)
 	case api.ERaise:
-		panic(s.exp(n.Kids[0], e))
+		panic(s.kid(n.Kids[0], e))
 	case api.ELet:
 		e, _ = s.decs(n.Kids[:n.N], e)
 		return s.exp(n.Kids[n.N], e)
 	case api.ESeq:
-		l := s.exps(n.Kids, e)
-		return l[len(l)-1]
+		// The last kid is not waited for: so more programs are held to P15.6.
+		last := len(n.Kids) - 1
+		s.exps(n.Kids[:last], e)
+		return s.exp(n.Kids[last], e)
 	case api.EOp:
 		return e.find("operator", n.Name).value.(slowFn)(s.exps(n.Kids, e))
 	case api.EHas:
@@ -313,11 +335,12 @@ func (s *slow) exp(n api.Node, e slowNames) any {
 }
 
 func (s *slow) try(thing func() any) (v any, raised *slowExn) {
+	waits := s.waits
 	defer func() {
 		switch x := recover().(type) {
 		case nil:
 		case slowExn:
-			raised = &x
+			raised, s.waits = &x, waits
 		default:
 			panic(x)
 		}
@@ -421,7 +444,7 @@ func (s *slow) decs(list []api.Node, e slowNames) (all, own slowNames) {
 func (s *slow) dec(n api.Node, e slowNames) slowNames {
 	switch n.Kind {
 	case api.DVal:
-		inner, ok := s.pat(n.Kids[0], s.exp(n.Kids[1], e), e, e)
+		inner, ok := s.pat(n.Kids[0], s.kid(n.Kids[1], e), e, e)
 		if !ok {
 			panic(s.bind)
 		}
@@ -472,7 +495,7 @@ func (s *slow) structure(n api.Node, e slowNames) (own slowNames) {
 	if k := n.Kids[len(n.Kids)-1]; k.Kind == api.SPath {
 		own = e.find("structure", k.Name).in
 	} else {
-		_, own = s.decs(k.Kids, e)
+		s.waiting(func() { _, own = s.decs(k.Kids, e) })
 	}
 	if n.N > 0 {
 		return slowShown(own, n.Kids[0], e, slowData)
