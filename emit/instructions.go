@@ -20,8 +20,7 @@ func (w *writer) instruction(t api.Term) api.Ins {
 	case api.TVar:
 		return api.Ins{Op: api.InStd, A: -1 - t.N}
 	case api.TBase:
-		names := code.Bases()
-		return api.Ins{Op: api.InBase, A: slices.Index(names[:], t.S)}
+		return w.beginning(t.S)
 	case api.TOp:
 		names := code.Signs()
 		return api.Ins{Op: api.InSign, A: slices.Index(names[:], t.S)}
@@ -47,4 +46,13 @@ func (w *writer) instruction(t api.Term) api.Ins {
 	default: // TMake
 		return api.Ins{Op: api.InMake, A: t.N}
 	}
+}
+
+// beginning is the instruction of a function that is there from the beginning.
+func (w *writer) beginning(name string) api.Ins {
+	if w.arrays != nil && ofArrays(name) {
+		return api.Ins{Op: api.InMake, A: w.arrays.number(name)}
+	}
+	names := code.Bases()
+	return api.Ins{Op: api.InBase, A: slices.Index(names[:], name)}
 }

@@ -4,9 +4,10 @@ import "mlcore/api"
 
 // writer writes the instructions of a function.
 type writer struct {
-	texts *texts
-	list  []api.Ins
-	over  bool // nothing comes to what is behind the last one
+	texts  *texts
+	arrays *arrays // nil in their own code
+	list   []api.Ins
+	over   bool // nothing comes to what is behind the last one
 }
 
 // put puts instructions behind the last one. One that nothing would come to is left out:

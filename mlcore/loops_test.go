@@ -82,6 +82,14 @@ func TestP15_8Forgotten(t *testing.T) {
 		{"a pattern", "fun go (i, x :: r) = if i = 0 then x else go (i - 1, make (1 + len r)) val _ = go (N, make 9)"},
 		{"a reference", "val r = ref [] fun go i = if i = 0 then 0 else (r := make 9; go (i - 1)) val _ = go N"},
 		{"an array", "val a = array (3, []) fun go i = if i = 0 then 0 else (put (a, i % 3, make 9); go (i - 1)) val _ = go N"},
+		{"arrays", "fun go (i, a) = if i = 0 then length a else go (i - 1, array (20, i)) val _ = go (N, array (1, 0))"},
+		{"arrays of a name", "val p = (20, make 9) fun go (i, a) = if i = 0 then length a else go (i - 1, array p) val _ = go (N, array p)"},
+		{"arrays that are written", "fun go (i, a) = if i = 0 then at (a, 3) else (put (a, 3, i); go (i - 1, array (20, i))) val _ = go (N, array (20, 0))"},
+		{"what an array was made of", "val a = ref (array (1, [])) fun go i = if i = 0 then 0 else (a := array (2, make 9); go (i - 1)) val _ = go N"},
+		{"what all of its cells held", "data t = A of t array | B fun go (i, t) = if i = 0 then 0 else let val a = array (2, t) in (put (a, 0, B); put (a, 1, B); go (i - 1, A a)) end val _ = go (N, B)"},
+		{"what it would hold", "data t = A of t array | B fun go (i, t) = if i = 0 then 0 else go (i - 1, A (array (0, t))) val _ = go (N, B)"},
+		{"what is out of bounds", "val a = array (20, []) fun go i = if i = 0 then 0 else (try put (a, 20, make 9) with Bounds => () end; try (at (a, ~1); ()) with Bounds => () end; go (i - 1)) val _ = go N"},
+		{"what is too great", "fun go i = if i = 0 then 0 else (try (array (100 + i, make 9); ()) with Size => () end; go (i - 1)) val _ = go N"},
 		{"a function", "fun go (i, f) = if i = 0 then len (f ()) else let val l = make 9 in go (i - 1, fn () => l) end val _ = go (N, fn () => [])"},
 		{"an exception", "exception E of int list fun go i = if i = 0 then 0 else try raise E (make 9) with E l => go (i - 1) end val _ = go N"},
 		{"what is tried", "fun go i = if i = 0 then 0 else (try len (make 9) + 1 / 0 with Div => 0 end; go (i - 1)) val _ = go N"},
@@ -111,6 +119,9 @@ func TestP15_8Tails(t *testing.T) {
 		ends(t, text+" val _ = if f 3000 then print \"t\" else ()", 60, "Done", "t")
 	}
 	// Functions of the beginning are called so, too.
+	for _, body := range []string{"at (a, 2)", "length a - 2", "(put (a, 0, n); 1)", "at (array (n, 1), n - 1)", "g (a, 2)"} {
+		ends(t, "val g = at val a = array (3, 1) fun h n = "+body+" fun f n = if n = 0 then 0 else f (n - h 5) val _ = print (str (f 3000))", 60, "Done", "0")
+	}
 	ends(t, "fun p s = print s fun f n = if n = 0 then p \"e\" else (p \"\"; f (n - 1)) val _ = f 3000", 60, "Done", "e")
 }
 
@@ -121,6 +132,14 @@ func TestP15_8Tries(t *testing.T) {
 		ends(t, strings.Replace(tried, "N", n, 1), 2000, "Done", "1")
 	}
 	ends(t, strings.Replace(tried, "N", "600", 1), api.MaxHeap, "Memory", "")
+}
+
+// Where as much waits as P15.6 says there are calls for the functions of arrays, too.
+func TestP15_6ArrayCalls(t *testing.T) {
+	for _, last := range []string{"length (array (100, 0))", "at (array (3, 100), 2)", "(put (a, 1, 50); at (a, 0) + at (a, 1))", "(at (a, 3); 0)", "(put (a, 3, 0); 0)", "length (array (101, 0))"} {
+		text := "val a = array (3, 50) fun f n = if n = 0 then " + last + " else 1 + f (n - 1) val _ = print (str (try f 390 with Bounds => 490 | Size => 490 end))"
+		ends(t, text, 400, "Done", "490")
+	}
 }
 
 // Calls that wait are at most MaxCalls.
